@@ -209,8 +209,8 @@ func (h *byHand) out(port int, value uint32, a string) (l []string) {
 	var words []uint32
 	var four []string
 	for n := range map[int]uint32{5: 3, 7: 2, 9: 2}[port] {
-		if at := value + 4*n; h.in(at, 4) {
-			words, four = append(words, h.word(at)), append(four, mem(int(at), 4))
+		if at := int64(value) + 4*int64(n); at+4 <= int64(len(h.memory)) {
+			words, four = append(words, h.word(uint32(at))), append(four, mem(int(at), 4))
 		}
 	}
 	if len(four) > 0 {

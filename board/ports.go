@@ -185,12 +185,14 @@ func (s *stepping) send(at uint32) {
 func (s *stepping) command(at uint32, many int) ([]uint32, bool) {
 	var command []uint32
 	var from []api.Place
-	for range many {
-		if s.has(at, wordBytes) {
-			command = append(command, s.word(at))
-			from = append(from, row(api.PlaceMem, int(at), wordBytes)...)
+	for n := range uint32(many) {
+		// Asked from the command's beginning on, as its addresses do not come round: behind a word that is not in memory none is.
+		if !s.has(at, wordBytes*(n+1)) {
+			break
 		}
-		at = words.Add(at, wordBytes)
+		here := at + wordBytes*n
+		command = append(command, s.word(here))
+		from = append(from, row(api.PlaceMem, int(here), wordBytes)...)
 	}
 	if len(from) > 0 {
 		s.decide(from...)

@@ -227,8 +227,11 @@ func TestDiskCommandIsRefused(t *testing.T) {
 		{"a command of 1 byte in memory", 255, 1, 128, 0, ""},
 		{"a command at the end of memory", 256, 1, 128, 0, ""},
 		{"a command beyond it", 1 << 31, 1, 128, 0, ""},
-		{"a command whose words are at -12 to -4", 4294967284, 1, 128, 0, ""},
-		{"a command whose last words are at 0 and 4", 4294967292, 1, 128, 0, mem(0, 8)},
+		{"a command that ends at 2^32", 4294967284, 1, 128, 0, ""},
+		{"a command whose last word goes beyond 2^32", 4294967285, 1, 128, 0, ""},
+		{"a command whose last word is at 2^32", 4294967288, 1, 128, 0, ""},
+		{"a command whose last words are behind 2^32", 4294967292, 1, 128, 0, ""},
+		{"a command at the last address of all", 4294967295, 1, 128, 0, ""},
 	} {
 		for _, up := range []bool{false, true} {
 			b := commandBoard(t, 5, row.at, row.sector, row.address, row.to)
@@ -345,7 +348,10 @@ func TestReceiveIsRefused(t *testing.T) {
 		{"a command of 4 bytes in memory", 252, 1, 128, 8, mem(252, 4)},
 		{"a command of 3 bytes in memory", 253, 1, 128, 8, ""},
 		{"a command at the end of memory", 256, 1, 128, 8, ""},
-		{"a command far beyond", 4294967288, 2, 128, 8, ""},
+		{"a command that ends at 2^32", 4294967288, 2, 128, 8, ""},
+		{"a command whose last word goes beyond 2^32", 4294967289, 1, 128, 8, ""},
+		{"a command whose last word is at 2^32", 4294967292, 1, 128, 8, ""},
+		{"a command at the last address of all", 4294967295, 1, 128, 8, ""},
 		{"none waits, and no word is in memory", 256, 0, 128, 8, ""},
 	} {
 		b := commandBoard(t, 7, row.at, row.address, row.length)
@@ -412,6 +418,10 @@ func TestSendIsRefused(t *testing.T) {
 		{"a command of 3 bytes in memory", 253, 128, 3, ""},
 		{"a command at the end of memory", 256, 128, 3, ""},
 		{"a command far beyond", 1 << 31, 128, 3, ""},
+		{"a command that ends at 2^32", 4294967288, 128, 3, ""},
+		{"a command whose last word goes beyond 2^32", 4294967289, 128, 3, ""},
+		{"a command whose last word is at 2^32", 4294967292, 128, 3, ""},
+		{"a command at the last address of all", 4294967295, 128, 3, ""},
 	} {
 		b := commandBoard(t, 9, row.at, row.address, row.length)
 		commands(t, row.name, b, row.words, "", "ask1", func(b *Board) { b.answers[1] = 4294967295 })
